@@ -2,6 +2,7 @@ package tests
 
 import (
 	"bytes"
+	"slices"
 	"testing"
 )
 
@@ -27,27 +28,35 @@ func (s spared) checkSame(t *testing.T, what string) {
 }
 
 // scribble writes over an answer and all the room behind it: whatever shares memory with it shows that.
-func scribble(answer []byte) {
+func scribble[E any](answer []E, other func(E) E) {
 	all := answer[:cap(answer)]
 	for i := range all {
-		all[i] ^= 0xA5
+		all[i] = other(all[i])
 	}
 }
+
+func otherByte(b byte) byte { return b ^ 0xA5 }
 
 // checkNew tells whether a call leaves its arguments alone and answers with memory of its own each time.
 func checkNew(t *testing.T, what string, args []spared, call func() []byte) {
 	t.Helper()
+	checkNewList(t, what, args, call, otherByte)
+}
+
+// checkNewList does it for a list of anything; other makes of one element another that is not like it.
+func checkNewList[E comparable](t *testing.T, what string, args []spared, call func() []E, other func(E) E) {
+	t.Helper()
 	first := call()
-	kept := bytes.Clone(first)
+	kept := slices.Clone(first)
 	second := call()
 	for _, a := range args {
 		a.checkSame(t, what)
 	}
-	scribble(first)
+	scribble(first, other)
 	for _, a := range args {
 		a.checkSame(t, what+", when the answer is written to")
 	}
-	if !bytes.Equal(second, kept) {
+	if !slices.Equal(second, kept) {
 		t.Errorf("%s: two answers share memory, or differ: %v, was %v", what, second, kept)
 	}
 }
