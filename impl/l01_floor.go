@@ -51,8 +51,8 @@ func cut(floor []byte, at int64, n int64) []byte {
 	return floor[at : at+n : at+n]
 }
 
-func copied(part []byte) []byte {
-	answer := make([]byte, len(part))
-	copy(answer, part)
+func copied[E any](list []E) []E {
+	answer := make([]E, len(list))
+	copy(answer, list)
 	return answer
 }

@@ -309,7 +309,7 @@ func TestDataThatIsPartOfTheFloor(t *testing.T) {
 func TestFloorAnswersAreNew(t *testing.T) {
 	for _, size := range []int64{0, 6, impl.MaxFloor, impl.MaxFloor + 1} {
 		floor := withSpare(numbered(size))
-		one := []spared{floor}
+		one := []kept{floor}
 		for _, at := range []int64{-1, 0, 1, 3, 5, size, size + 1} {
 			for _, n := range []int64{-1, 0, 1, 3, 6, size - 1, size, size + 1} {
 				checkNew(t, said("PartOf", size, at, n), one, func() []byte {
@@ -327,7 +327,7 @@ func TestFloorAnswersAreNew(t *testing.T) {
 					})
 				}
 				data := withSpare(bytes.Repeat([]byte{77}, int(max(n, 0))))
-				checkNew(t, said("Laid", size, at, n), []spared{floor, data}, func() []byte {
+				checkNew(t, said("Laid", size, at, n), []kept{floor, data}, func() []byte {
 					got, _ := impl.Laid(floor.arg, at, data.arg)
 					return got
 				})

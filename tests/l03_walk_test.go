@@ -317,7 +317,7 @@ func TestWalksAreNewAndLeaveTheFloorAlone(t *testing.T) {
 		floor := withSpare(laid)
 		for _, from := range []int64{math.MinInt64, -1, 0, c.at, c.at + 1, c.size, math.MaxInt64} {
 			for _, to := range []int64{math.MinInt64, -1, 0, c.at, end - 1, end, end + 1, c.size, c.size + 1, math.MaxInt64} {
-				checkNewList(t, c.what+said(", walked", from, to), []spared{floor}, func() []impl.Place {
+				checkNewList(t, c.what+said(", walked", from, to), []kept{floor}, func() []impl.Place {
 					got, _ := impl.WalkOf(floor.arg, from, to)
 					return got
 				}, otherPlace)

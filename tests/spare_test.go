@@ -1,28 +1,32 @@
 package tests
 
 import (
-	"bytes"
 	"slices"
 	"testing"
 )
 
-const spareMark = 0xEE
+// kept is an argument that tells whether it is still as it was when it was made.
+type kept interface {
+	checkSame(t *testing.T, what string)
+}
 
 // spared is an argument with room behind it, and all of what it had when it was made.
-type spared struct {
-	arg   []byte
-	whole []byte
-	was   []byte
+type spared[E comparable] struct {
+	arg   []E
+	whole []E
+	was   []E
 }
 
-func withSpare(part []byte) spared {
-	whole := append(bytes.Clone(part), bytes.Repeat([]byte{spareMark}, 32)...)
-	return spared{arg: whole[:len(part)], whole: whole, was: bytes.Clone(whole)}
+func withSpareOf[E comparable](list []E, mark E) spared[E] {
+	whole := append(slices.Clone(list), slices.Repeat([]E{mark}, 32)...)
+	return spared[E]{arg: whole[:len(list)], whole: whole, was: slices.Clone(whole)}
 }
 
-func (s spared) checkSame(t *testing.T, what string) {
+func withSpare(part []byte) spared[byte] { return withSpareOf(part, 0xEE) }
+
+func (s spared[E]) checkSame(t *testing.T, what string) {
 	t.Helper()
-	if !bytes.Equal(s.whole, s.was) {
+	if !slices.Equal(s.whole, s.was) {
 		t.Errorf("%s: the argument or its spare room is %v, was %v", what, s.whole, s.was)
 	}
 }
@@ -38,16 +42,16 @@ func scribble[E any](answer []E, other func(E) E) {
 func otherByte(b byte) byte { return b ^ 0xA5 }
 
 // checkNew tells whether a call leaves its arguments alone and answers with memory of its own each time.
-func checkNew(t *testing.T, what string, args []spared, call func() []byte) {
+func checkNew(t *testing.T, what string, args []kept, call func() []byte) {
 	t.Helper()
 	checkNewList(t, what, args, call, otherByte)
 }
 
 // checkNewList does it for a list of anything; other makes of one element another that is not like it.
-func checkNewList[E comparable](t *testing.T, what string, args []spared, call func() []E, other func(E) E) {
+func checkNewList[E comparable](t *testing.T, what string, args []kept, call func() []E, other func(E) E) {
 	t.Helper()
 	first := call()
-	kept := slices.Clone(first)
+	answered := slices.Clone(first)
 	second := call()
 	for _, a := range args {
 		a.checkSame(t, what)
@@ -56,7 +60,7 @@ func checkNewList[E comparable](t *testing.T, what string, args []spared, call f
 	for _, a := range args {
 		a.checkSame(t, what+", when the answer is written to")
 	}
-	if !slices.Equal(second, kept) {
-		t.Errorf("%s: two answers share memory, or differ: %v, was %v", what, second, kept)
+	if !slices.Equal(second, answered) {
+		t.Errorf("%s: two answers share memory, or differ: %v, was %v", what, second, answered)
 	}
 }
