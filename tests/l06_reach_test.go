@@ -479,38 +479,16 @@ func TestStrangeNumbersForCosts(t *testing.T) {
 	}
 }
 
-// keptWeb is a web with room behind it, and behind the Refs of each knot.
-type keptWeb struct {
-	arg   []impl.Knot
-	whole []impl.Knot
-	was   []impl.Knot
-	refs  []spared[int64]
-}
-
-func withSpareWeb(web []impl.Knot) keptWeb {
-	var spare keptWeb
-	for _, k := range append(slices.Clone(web), slices.Repeat([]impl.Knot{{Root: true, Refs: []int64{-7}}}, 20)...) {
+func withSpareWeb(web []impl.Knot) sparedRows[impl.Knot] {
+	return withSpareRows(web, impl.Knot{Root: true, Refs: []int64{-7}}, sameKnot, func(k *impl.Knot) kept {
 		refs := withSpareOf(k.Refs, -99)
-		spare.refs = append(spare.refs, refs)
-		spare.whole = append(spare.whole, impl.Knot{There: k.There, Root: k.Root, Refs: refs.arg})
-	}
-	spare.arg = spare.whole[:len(web)]
-	spare.was = slices.Clone(spare.whole)
-	return spare
+		k.Refs = refs.arg
+		return refs
+	})
 }
 
 func sameKnot(a, b impl.Knot) bool {
 	return a.There == b.There && a.Root == b.Root && slices.Equal(a.Refs, b.Refs)
-}
-
-func (k keptWeb) checkSame(t *testing.T, what string) {
-	t.Helper()
-	if !slices.EqualFunc(k.whole, k.was, sameKnot) {
-		t.Errorf("%s: the argument or its spare room is %s, was %s", what, webShown(k.whole), webShown(k.was))
-	}
-	for _, refs := range k.refs {
-		refs.checkSame(t, what)
-	}
 }
 
 func TestReachAnswersAreNew(t *testing.T) {

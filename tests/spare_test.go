@@ -31,6 +31,36 @@ func (s spared[E]) checkSame(t *testing.T, what string) {
 	}
 }
 
+// sparedRows is spared for elements that have lists of their own: each of these has room behind it, and is kept, too.
+type sparedRows[E any] struct {
+	arg   []E
+	whole []E
+	was   []E
+	same  func(a, b E) bool
+	lists []kept
+}
+
+// withSpareRows has spareIn put room behind the lists of an element, and say what is to be kept of them.
+func withSpareRows[E any](list []E, mark E, same func(a, b E) bool, spareIn func(*E) kept) sparedRows[E] {
+	whole := append(slices.Clone(list), slices.Repeat([]E{mark}, 20)...)
+	rows := sparedRows[E]{arg: whole[:len(list)], whole: whole, same: same}
+	for i := range whole {
+		rows.lists = append(rows.lists, spareIn(&whole[i]))
+	}
+	rows.was = slices.Clone(whole)
+	return rows
+}
+
+func (s sparedRows[E]) checkSame(t *testing.T, what string) {
+	t.Helper()
+	if !slices.EqualFunc(s.whole, s.was, s.same) {
+		t.Errorf("%s: the argument or its spare room is %v, was %v", what, s.whole, s.was)
+	}
+	for _, list := range s.lists {
+		list.checkSame(t, what)
+	}
+}
+
 // scribble writes over an answer and all the room behind it: whatever shares memory with it shows that.
 func scribble[E any](answer []E, other func(E) E) {
 	all := answer[:cap(answer)]
