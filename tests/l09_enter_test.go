@@ -515,8 +515,8 @@ func TestTheCodeNamedFirst(t *testing.T) {
 	checkEntered(t, "as many as there are", busyHeap(), 1, 28, 16, impl.CdOk)
 }
 
-// TestWrongHeapsAheadOfAll has the zero Heap, with CdBad, whatever else would be told of the call.
-func TestWrongHeapsAheadOfAll(t *testing.T) {
+// wrongHeaps are wrong for each reason that chapter 8 gives, most of them by one change of a right heap.
+func wrongHeaps() []namedHeap {
 	wrong := []namedHeap{{"zero", impl.Heap{}}, {"just a floor", impl.Heap{Floor: make([]byte, 64)}}, {"of a small floor", heapOf(63, nobodyThere())}, {"of a large floor", heapOf(1025, nobodyThere())}}
 	for _, c := range wrongChanges() {
 		h := busyHeap()
@@ -535,7 +535,12 @@ func TestWrongHeapsAheadOfAll(t *testing.T) {
 		c.do(&h)
 		wrong = append(wrong, namedHeap{c.what, h})
 	}
-	for _, c := range wrong {
+	return wrong
+}
+
+// TestWrongHeapsAheadOfAll has the zero Heap, with CdBad, whatever else would be told of the call.
+func TestWrongHeapsAheadOfAll(t *testing.T) {
+	for _, c := range wrongHeaps() {
 		for who := int64(-1); who <= 4; who++ {
 			for _, x := range [][2]int64{{10, 2}, {-1, 2}, {1025, 2}, {10, 0}, {10, 17}, {1024, 1}} {
 				got := checkEntered(t, c.what, c.heap, who, x[0], x[1], impl.CdBad)
@@ -571,21 +576,33 @@ func TestStrangeNumbersForComing(t *testing.T) {
 	}
 }
 
-// TestStrangeFields has a strange number in each field of the heap.
-func TestStrangeFields(t *testing.T) {
+// withStrangeFields does it for heaps that have a strange number in one field, in each of them in turn.
+func withStrangeFields(do func(what string, h impl.Heap)) {
 	for _, n := range farNumbers() {
 		for field := range 8 {
-			h := slidingHeap()
-			x := &h.Tenants[0]
-			*[]*int64{&h.Top, &h.Low, &h.High, &h.NextTag, &x.Tag, &x.Bytes, &x.Table[1].At, &x.Table[3].Gen}[field] = n
-			_, code := enteredTold(h, 1, 10, 2)
-			checkEntered(t, said("field", int64(field), n), h, 1, 10, 2, code)
-			_, code = goneTold(h, 0)
-			checkGone(t, said("field", int64(field), n), h, 0, code)
-			_, code = goneTold(h, 2)
-			checkGone(t, said("field", int64(field), n), h, 2, code)
+			for _, h := range []impl.Heap{busyHeap(), slidingHeap()} {
+				x := &h.Tenants[0]
+				*[]*int64{&h.Top, &h.Low, &h.High, &h.NextTag, &x.Tag, &x.Bytes, &x.Table[1].At, &x.Table[3].Gen}[field] = n
+				do(said(flagShown(h.Sliding, "sliding")+"field", int64(field), n), h)
+			}
 		}
 	}
+}
+
+// checkComingAndGoing holds both calls against the words, whatever they tell.
+func checkComingAndGoing(t *testing.T, what string, h impl.Heap, comes, goes int64) {
+	t.Helper()
+	_, code := enteredTold(h, comes, 10, 2)
+	checkEntered(t, what, h, comes, 10, 2, code)
+	_, code = goneTold(h, goes)
+	checkGone(t, what, h, goes, code)
+}
+
+func TestStrangeFields(t *testing.T) {
+	withStrangeFields(func(what string, h impl.Heap) {
+		checkComingAndGoing(t, what, h, 1, 0)
+		checkComingAndGoing(t, what, h, 1, 2)
+	})
 }
 
 // TestDrawnComingAndGoing has heaps in which some come and some go, most of them as they may.
@@ -608,31 +625,42 @@ func TestDrawnComingAndGoing(t *testing.T) {
 			codes[code]++
 		}
 	}
-	for _, code := range []int64{impl.CdOk, impl.CdBad, impl.CdNone, impl.CdThere, impl.CdRoom} {
-		if codes[code] < 100 {
+	checkOften(t, codes, 100, impl.CdOk, impl.CdBad, impl.CdNone, impl.CdThere, impl.CdRoom)
+}
+
+// checkOften tells whether what was drawn came to each of the codes.
+func checkOften(t *testing.T, codes map[int64]int, least int, wanted ...int64) {
+	t.Helper()
+	for _, code := range wanted {
+		if codes[code] < least {
 			t.Errorf("just %d of code %d: %v", codes[code], code, codes)
 		}
 	}
 }
 
-func TestDrawnChangesAheadOfGoing(t *testing.T) {
+// withDrawnChanges does it for as many drawn heaps, some of which are not right any more.
+func withDrawnChanges(t *testing.T, n int, do func(d *drawn, h impl.Heap)) {
+	t.Helper()
 	var d drawn
 	right := 0
-	for range 3000 {
+	for range n {
 		h := drawnHeap(&d)
 		drawnChange(&d, &h)
 		if _, is := toldOf(h); is {
 			right++
 		}
+		do(&d, h)
+	}
+	if right < n/6 || right > n-n/6 {
+		t.Errorf("%d of %d heaps are right", right, n)
+	}
+}
+
+func TestDrawnChangesAheadOfGoing(t *testing.T) {
+	withDrawnChanges(t, 3000, func(d *drawn, h impl.Heap) {
 		who := d.below(4)
-		_, code := goneTold(h, who)
-		checkGone(t, "drawn change", h, who, code)
-		_, code = enteredTold(h, who, 10, 2)
-		checkEntered(t, "drawn change", h, who, 10, 2, code)
-	}
-	if right < 500 || right > 2500 {
-		t.Errorf("%d of 3000 heaps are right", right)
-	}
+		checkComingAndGoing(t, "drawn change", h, who, who)
+	})
 }
 
 // markLists writes over each Table, and over the floor, with all the room behind them; each Table has a mark of its own.
