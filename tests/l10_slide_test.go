@@ -103,17 +103,24 @@ func knownIn(h impl.Heap) []string {
 	var known []string
 	for who, x := range h.Tenants {
 		what := said(flagShown(x.Live, "live")+"tag bytes used", x.Tag, x.Bytes, all.used[who]) + " " + webShown(all.webs[who])
-		for slot, s := range x.Table {
-			number := impl.NumberOf(impl.Ticket{Tag: x.Tag, Gen: s.Gen, Slot: int64(slot)})
-			what += said(flagShown(s.Used, " used")+flagShown(s.Root, " root")+" ticket", number, impl.LookedUp(x.Table, x.Tag, number))
-			if s.Used {
-				size := int64(h.Floor[s.At]) + 256*int64(h.Floor[s.At+1])
-				what += " " + string(h.Floor[s.At+6+int64(h.Floor[s.At+4]):s.At+size])
-			}
+		for slot := range x.Table {
+			what += " " + thingKnown(h, x, slot)
 		}
 		known = append(known, what)
 	}
 	return known
+}
+
+// thingKnown is what a tenant can know of one slot, but for its place in the web.
+func thingKnown(h impl.Heap, x impl.Tenant, slot int) string {
+	s := x.Table[slot]
+	number := impl.NumberOf(impl.Ticket{Tag: x.Tag, Gen: s.Gen, Slot: int64(slot)})
+	what := said(flagShown(s.Used, "used ")+flagShown(s.Root, "root ")+"ticket", number, impl.LookedUp(x.Table, x.Tag, number))
+	if s.Used {
+		size := int64(h.Floor[s.At]) + 256*int64(h.Floor[s.At+1])
+		what += " " + string(h.Floor[s.At+6+int64(h.Floor[s.At+4]):s.At+size])
+	}
+	return what
 }
 
 // checkUnnoticed is the second part of promise 10.
