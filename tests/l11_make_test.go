@@ -120,12 +120,7 @@ func checkThing(t *testing.T, what string, h, was impl.Heap, m making, number in
 // checkOthers tells whether all other tenants, and all other things of this one, are as they were.
 func checkOthers(t *testing.T, what string, h, was impl.Heap, who int64, made int) {
 	t.Helper()
-	got, want := knownIn(h), knownIn(was)
-	for other := range got {
-		if other != int(who) && got[other] != want[other] {
-			t.Errorf("%s: %d knows %q, knew %q", what, other, got[other], want[other])
-		}
-	}
+	checkOthersKnow(t, what, h, was, who)
 	for slot := range h.Tenants[who].Table {
 		got, want := thingKnown(h, h.Tenants[who], slot), thingKnown(was, was.Tenants[who], slot)
 		if slot != made && got != want {
@@ -134,6 +129,17 @@ func checkOthers(t *testing.T, what string, h, was impl.Heap, who int64, made in
 	}
 	if h.NextTag != was.NextTag {
 		t.Errorf("%s: NextTag is %d, was %d", what, h.NextTag, was.NextTag)
+	}
+}
+
+// checkOthersKnow tells that all other tenants know what they knew.
+func checkOthersKnow(t *testing.T, what string, h, was impl.Heap, who int64) {
+	t.Helper()
+	known, knew := knownIn(h), knownIn(was)
+	for other := range known {
+		if other != int(who) && known[other] != knew[other] {
+			t.Errorf("%s: %d knows %q, knew %q", what, other, known[other], knew[other])
+		}
 	}
 }
 

@@ -132,13 +132,18 @@ func lostBy(h impl.Heap, x setting) []int64 {
 	if code != impl.CdOk {
 		return nil
 	}
-	var lost []int64
-	for slot, s := range h.Tenants[x.who].Table {
-		if s.Used && !got.Tenants[x.who].Table[slot].Used {
-			lost = append(lost, int64(slot))
+	return freedFrom(h, got, x.who)
+}
+
+// freedFrom are the slots of a tenant that were Used in one heap and are not in what was made of it.
+func freedFrom(was, h impl.Heap, who int64) []int64 {
+	var list []int64
+	for slot, s := range was.Tenants[who].Table {
+		if s.Used && !h.Tenants[who].Table[slot].Used {
+			list = append(list, int64(slot))
 		}
 	}
-	return lost
+	return list
 }
 
 func checkRead(t *testing.T, what string, h impl.Heap, x touch, code int64) []byte {
@@ -222,7 +227,10 @@ func checkRefSet(t *testing.T, what string, h impl.Heap, x setting, code int64, 
 		checkRightHeap(t, what, got)
 		checkRefAt(t, what, got, x, x.to, impl.CdOk)
 		checkRefsElsewhere(t, what, got, h, x)
-		checkLostOf(t, what, got, h, x, lost)
+		checkLostOf(t, what, got, h, x.who, lost)
+		if slices.Contains(lost, x.number%16) {
+			t.Errorf("%s: what was looked up is lost", what)
+		}
 	}
 	return got
 }
@@ -236,29 +244,24 @@ func checkRefsElsewhere(t *testing.T, what string, h, was impl.Heap, x setting) 
 	want.Floor[at] = h.Floor[at]
 	want.Tenants[x.who].Table = h.Tenants[x.who].Table
 	checkAnswer(t, what+": all but the ref and the Table", h, 0, want, 0)
-	known, knew := knownIn(h), knownIn(was)
-	for other := range known {
-		if other != int(x.who) && known[other] != knew[other] {
-			t.Errorf("%s: %d knows %q, knew %q", what, other, known[other], knew[other])
-		}
-	}
+	checkOthersKnow(t, what, h, was, x.who)
 }
 
 // checkLostOf tells of all slots that those are freed, with numbers that are good for nothing, and that each other one is as it was.
-func checkLostOf(t *testing.T, what string, h, was impl.Heap, x setting, lost []int64) {
+func checkLostOf(t *testing.T, what string, h, was impl.Heap, who int64, lost []int64) {
 	t.Helper()
-	for slot, s := range was.Tenants[x.who].Table {
-		got, number := h.Tenants[x.who].Table[slot], numberFor(was, x.who, int64(slot))
+	for slot, s := range was.Tenants[who].Table {
+		got := h.Tenants[who].Table[slot]
 		if !slices.Contains(lost, int64(slot)) {
 			if got != s {
 				t.Errorf("%s: slot %d is %s, was %s", what, slot, slotShown(got), slotShown(s))
 			}
 			continue
 		}
-		if want := (impl.Slot{Gen: s.Gen + 1}); got != want || number == x.number {
+		if want := (impl.Slot{Gen: s.Gen + 1}); got != want {
 			t.Errorf("%s: lost slot %d is %s, want %s", what, slot, slotShown(got), slotShown(want))
 		}
-		checkGoodForNothing(t, what, h, x.who, number)
+		checkGoodForNothing(t, what, h, who, numberFor(was, who, int64(slot)))
 	}
 }
 
@@ -268,8 +271,10 @@ func checkGoodForNothing(t *testing.T, what string, h impl.Heap, who, number int
 	_, written := impl.WrittenAt(h, who, number, 0, nil)
 	to, code := impl.RefAt(h, who, number, 0)
 	_, set := impl.RefSet(h, who, number, 0, 0)
-	if written != impl.CdTicket || code != impl.CdTicket || set != impl.CdTicket || to != 0 {
-		t.Errorf("%s: %d is good for something: codes %d, %d, %d", what, number, written, code, set)
+	_, held := impl.Rooted(h, who, number)
+	_, letGo := impl.Unrooted(h, who, number)
+	if written != impl.CdTicket || code != impl.CdTicket || set != impl.CdTicket || to != 0 || held != impl.CdTicket || letGo != impl.CdTicket {
+		t.Errorf("%s: %d is good for something: codes %d, %d, %d, %d, %d", what, number, written, code, set, held, letGo)
 	}
 }
 
@@ -762,31 +767,37 @@ func TestTillItIsWornOut(t *testing.T) {
 	checkRefusal(t, "worn out", h, making{1, 0, 0}, impl.CdSlots)
 }
 
+// withSmallWebs does it for each right heap of so many things with so many refs each, all of the first tenant.
+func withSmallWebs(things, refs int64, do func(web int64, h impl.Heap)) {
+	each := int64(1)
+	for range things * refs {
+		each *= things + 1
+	}
+	for web := range each << things {
+		var pieces []piece
+		left := web >> things
+		for slot := range things {
+			p := heldOf(0, slot, "x")
+			p.root = web>>slot&1 == 1
+			for range refs {
+				p.refs = append(p.refs, byte(left%(things+1)))
+				left /= things + 1
+			}
+			pieces = append(pieces, p)
+		}
+		h := heapOf(64, []impl.Tenant{live(1, 64, 3), {}, {}, {}}, pieces...)
+		if _, is := toldOf(h); is {
+			do(web, h)
+		}
+	}
+}
+
 // TestEverySmallWebIsSet has all webs of three things with one ref each, and of two with two refs each, that are right, and each ref of each set to each.
 func TestEverySmallWebIsSet(t *testing.T) {
 	for _, c := range [][2]int64{{3, 1}, {2, 2}} {
 		things, refs := c[0], c[1]
-		each := int64(1)
-		for range things * refs {
-			each *= things + 1
-		}
 		right, lost := 0, 0
-		for web := range each << things {
-			var pieces []piece
-			left := web >> things
-			for slot := range things {
-				p := heldOf(0, slot, "x")
-				p.root = web>>slot&1 == 1
-				for range refs {
-					p.refs = append(p.refs, byte(left%(things+1)))
-					left /= things + 1
-				}
-				pieces = append(pieces, p)
-			}
-			h := heapOf(64, []impl.Tenant{live(1, 64, 3), {}, {}, {}}, pieces...)
-			if _, is := toldOf(h); !is {
-				continue
-			}
+		withSmallWebs(things, refs, func(web int64, h impl.Heap) {
 			right++
 			for x := range things * refs * (things + 1) {
 				to := x / (things * refs)
@@ -798,7 +809,7 @@ func TestEverySmallWebIsSet(t *testing.T) {
 				checkRefSet(t, said("small web", web), h, set, impl.CdOk, gone...)
 				lost += len(gone)
 			}
-		}
+		})
 		if right < 100 || lost < 100 {
 			t.Errorf("just %d are right, and just %d things were lost", right, lost)
 		}
